@@ -2,7 +2,6 @@ package store
 
 import (
 	"slices"
-	"strings"
 
 	"frisket/api"
 )
@@ -13,11 +12,7 @@ const (
 	aMacro  = 2
 )
 
-const (
-	maxLines  = 2000
-	maxBoxes  = 2000 // of a made line
-	maxHeight = 1000000
-)
+const maxLines = 2000
 
 // entry has no lines if it is a string, and no text if it is a macro.
 type entry struct {
@@ -61,44 +56,4 @@ func place(n, at int) int {
 		return n + at
 	}
 	return at
-}
-
-func validText(text string) bool {
-	return len(text) <= api.MaxLine && !strings.Contains(text, "\n")
-}
-
-func validLines(lines []api.Line) bool {
-	for _, l := range lines {
-		if !validLine(l) {
-			return false
-		}
-	}
-	return true
-}
-
-func validLine(l api.Line) bool {
-	if l.Made {
-		return l.Text == "" && validHeight(l.Up) && validHeight(l.Down) && len(l.Boxes) <= maxBoxes
-	}
-	return validText(l.Text) && l.Up == 0 && l.Down == 0 && len(l.Boxes) == 0
-}
-
-func validHeight(n int) bool {
-	return -maxHeight <= n && n <= maxHeight
-}
-
-func copyLines(lines []api.Line) []api.Line {
-	copies := slices.Clone(lines)
-	for i, l := range copies {
-		copies[i].Boxes = copyBoxes(l.Boxes)
-	}
-	return copies
-}
-
-func copyBoxes(boxes []api.Box) []api.Box {
-	copies := slices.Clone(boxes)
-	for i, b := range copies {
-		copies[i].N = slices.Clone(b.N)
-	}
-	return copies
 }
