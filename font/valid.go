@@ -4,10 +4,12 @@ import (
 	"cmp"
 	"slices"
 	"strings"
+
+	"frisket/names"
 )
 
 const (
-	maxName   = 10 // bytes of a font's name, and of a glyph's
+	maxName   = 10 // bytes of a font's name
 	maxGlyphs = 400
 	maxLigs   = 50
 	maxKerns  = 500
@@ -45,19 +47,7 @@ func validGlyphs(glyphs []Glyph) bool {
 		return false
 	}
 	for _, g := range glyphs {
-		if !validGlyphName(g.Name) || !validWidth(g.Width) {
-			return false
-		}
-	}
-	return true
-}
-
-func validGlyphName(name string) bool {
-	if len(name) < 1 || len(name) > maxName {
-		return false
-	}
-	for _, b := range []byte(name) {
-		if b < 33 || b > 126 {
+		if !names.Glyph(g.Name) || !validWidth(g.Width) {
 			return false
 		}
 	}

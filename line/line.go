@@ -6,6 +6,7 @@ import (
 	"strings"
 
 	"frisket/api"
+	"frisket/box"
 )
 
 const (
@@ -50,9 +51,6 @@ func Copies(lines []api.Line) []api.Line {
 
 // Copy copies a line, with all that it could share.
 func Copy(l api.Line) api.Line {
-	l.Boxes = slices.Clone(l.Boxes)
-	for i, b := range l.Boxes {
-		l.Boxes[i].N = slices.Clone(b.N)
-	}
+	l.Boxes = box.Copies(l.Boxes)
 	return l
 }
